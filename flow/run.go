@@ -39,14 +39,14 @@ func Run(f api.Flat, t api.Table, g api.Given) (api.Ended, []api.Leak) {
 	var leaks []api.Leak
 	for at := 0; ; {
 		i := f.Code[at]
-		leaks = append(leaks, api.Leak{At: at, Op: i.Op, Values: Seen(t, i, s.places, false)})
+		leaks = append(leaks, api.Leak{At: at, Op: i.Op, Values: Seen(t, i, s.Places, false)})
 		switch i.Op {
 		case api.OpRet:
-			return api.Ended{Word: s.places[i.A], Arrays: s.arrays}, leaks
+			return api.Ended{Word: s.Places[i.A], Arrays: s.Arrays}, leaks
 		case api.OpTrap:
-			return api.Ended{Trap: true, Arrays: s.arrays}, leaks
+			return api.Ended{Trap: true, Arrays: s.Arrays}, leaks
 		}
-		at = s.step(i, at)
+		at = s.Step(i, at)
 	}
 }
 
@@ -55,60 +55,60 @@ func fits(f api.Flat, g api.Given) bool {
 	return eval.Fits(api.Fn{Params: make([]api.Var, f.Params), Arrays: f.Arrays}, g) == api.OK
 }
 
-// state has the words of places, and arrays, while instructions are done.
-type state struct {
-	places []int
-	arrays [][]int
+// State has the words of places, and arrays, while instructions are done. A machine's slots are its places.
+type State struct {
+	Places []int
+	Arrays [][]int
 }
 
-func begin(f api.Flat, g api.Given) state {
-	s := state{places: make([]int, len(f.Secret)), arrays: eval.Arrays(g.Arrays)}
-	copy(s.places, g.Words)
+func begin(f api.Flat, g api.Given) State {
+	s := State{Places: make([]int, len(f.Secret)), Arrays: eval.Arrays(g.Arrays)}
+	copy(s.Places, g.Words)
 	return s
 }
 
-// step does i, which is at a number and does not end it, and tells which one is next.
-func (s state) step(i api.Instr, at int) int {
+// Step does i, which is at a number and does not end it, and tells which one is next. Places that i mentions, and its array, must be there.
+func (s State) Step(i api.Instr, at int) int {
 	switch i.Op {
 	case api.OpJump:
 		return i.Imm
 	case api.OpZero:
-		if s.places[i.A] == 0 {
+		if s.Places[i.A] == 0 {
 			return i.Imm
 		}
 	case api.OpStore:
 		if w := s.spot(i); w != nil {
-			*w = s.places[i.D]
+			*w = s.Places[i.D]
 		}
 	default:
-		s.places[i.D] = s.made(i)
+		s.Places[i.D] = s.made(i)
 	}
 	return at + 1
 }
 
 // made is the word that i makes.
-func (s state) made(i api.Instr) int {
+func (s State) made(i api.Instr) int {
 	switch i.Op {
 	case api.OpSel:
-		return word.Sel(s.places[i.A], s.places[i.B], s.places[i.C])
+		return word.Sel(s.Places[i.A], s.Places[i.B], s.Places[i.C])
 	case api.OpConst:
 		return i.Imm
 	case api.OpMove:
-		return s.places[i.A]
+		return s.Places[i.A]
 	case api.OpLoad:
 		if w := s.spot(i); w != nil {
 			return *w
 		}
 		return 0
 	}
-	n, _ := word.Two(i.Op, s.places[i.A], s.places[i.B])
+	n, _ := word.Two(i.Op, s.Places[i.A], s.Places[i.B])
 	return n
 }
 
-// spot is the word of array B at A; nil, if there is none. A place holds a word, so it is not below 0.
-func (s state) spot(i api.Instr) *int {
-	l := s.arrays[i.B]
-	if at := s.places[i.A]; at < len(l) {
+// spot is the word of array B at A; nil, if there is none. A machine may be given what is no word, so that A's may be below 0.
+func (s State) spot(i api.Instr) *int {
+	l := s.Arrays[i.B]
+	if at := s.Places[i.A]; within(at, len(l)) {
 		return &l[at]
 	}
 	return nil
